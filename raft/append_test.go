@@ -1,9 +1,11 @@
 package raft_test
 
 import (
+	"fmt"
 	"rookery/api"
 	"rookery/raft"
 	"slices"
+	"strconv"
 	"testing"
 )
 
@@ -198,36 +200,126 @@ func TestAppendOfAWholeBatch(t *testing.T) {
 	}
 }
 
-// No leader has entries above MaxIndex: a message that has them changes nothing more, and those up to it are taken.
-func TestAppendUpToTheHighestIndex(t *testing.T) {
+// A full log refuses what comes behind MaxIndex: it is answered as what was appended.
+func TestAppendBeyondTheHighestIndex(t *testing.T) {
 	const most = 1 << 40
-	s := saved(4, most-2, 2, 3)
-	n := begun(t, 1, 3, s)
-	sends(t, "beyond it", n.Receive(appends(2, 1, 4, most-1, 3, most, entries(most, 3, 3)...)))
-	is(t, "beyond it", n, api.Follower, 2, most-2, 10, s)
-	records(t, "beyond it", n)
-	sends(t, "up to it", n.Receive(appends(2, 1, 4, most-1, 3, most, entries(most, 3)...)), appended(1, 2, 4, true, most))
-	is(t, "up to it", n, api.Follower, 2, most, 10, saved(4, most-2, 2, 3, 3))
-	sends(t, "behind it", n.Receive(appends(2, 1, 4, most, 3, most, entries(most, 3)...)))
-	sends(t, "at it", n.Receive(appends(2, 1, 4, most, 3, most)), appended(1, 2, 4, true, most))
+	full := saved(4, most-2, 2, 3, 3)
+	n := begun(t, 1, 3, saved(4, most-2, 2, 3))
+	sends(t, "beyond it", n.Receive(appends(2, 1, 4, most-1, 3, 0, entries(most, 3, 3)...)), appended(1, 2, 4, true, most+1))
+	is(t, "beyond it", n, api.Follower, 2, most-2, 10, full)
+	records(t, "beyond it", n, entryRecord(most, 3, strconv.Itoa(most)))
+	n.Tick(0)
+	sends(t, "behind it", n.Receive(appends(2, 1, 4, most, 3, 0, entries(most+1, 3, 4)...)), appended(1, 2, 4, true, most+2))
+	is(t, "behind it", n, api.Follower, 2, most-2, 10, full)
+	sends(t, "at it", n.Receive(appends(2, 1, 4, most, 3, most-1)), appended(1, 2, 4, true, most))
+	is(t, "at it", n, api.Follower, 2, most-1, 10, full)
 	sends(t, "all of it", n.Receive(appends(2, 1, 4, most-2, 2, most, entries(most-1, 3, 3)...)), appended(1, 2, 4, true, most))
+	sends(t, "all of it and more", n.Receive(appends(2, 1, 4, most-2, 2, most, entries(most-1, 3, 3, 3)...)), appended(1, 2, 4, true, most+1))
+	is(t, "all of it and more", n, api.Follower, 2, most, 10, full)
+	records(t, "all of it and more", n)
+	sends(t, "another one below it", n.Receive(appends(2, 1, 4, most-1, 3, most, entries(most, 4, 4)...)))
+	list := entries(most+1, make([]int, 16)...)
+	for i := range list {
+		list[i].Term = 4
+	}
+	sends(t, "a whole batch", n.Receive(appends(2, 1, 4, most, 3, most, list...)), appended(1, 2, 4, true, most+16))
+	is(t, "a whole batch", n, api.Follower, 2, most, 10, full)
+	records(t, "a whole batch", n)
 }
 
-// Entries behind the base whose terms are below its own contradict it, and the log would refuse them: nothing more is done, even where those behind them would fit.
+// Where a full log's last entry gives way to another one, only those behind that are refused.
+func TestAppendCutsAFullLog(t *testing.T) {
+	const most = 1 << 40
+	n := begun(t, 1, 3, saved(4, most-2, 2, 3, 3))
+	sends(t, "cut", n.Receive(appends(2, 1, 4, most-1, 3, 0, entries(most, 4, 4)...)), appended(1, 2, 4, true, most+1))
+	is(t, "cut", n, api.Follower, 2, most-2, 10, saved(4, most-2, 2, 3, 4))
+	records(t, "cut", n, cutRecord(most), entryRecord(most, 4, strconv.Itoa(most)))
+}
+
+// refusedCase is a MsgAppend with Index 5 to a node whose base is 7 of term 2: entries from 8 on whose terms are below the base's are refused by the log. Each of the others is appended, behind whatever is last then.
+type refusedCase struct {
+	terms   []int // of the entries from 6 on
+	commit  int
+	behind  []api.Entry
+	reached int // the commit
+	records []api.Record
+}
+
+func refusedCases() []refusedCase {
+	two := []api.Entry{{Term: 3, Data: "9"}, {Term: 4, Data: "10"}}
+	return []refusedCase{
+		{[]int{0, 1, 1}, 0, nil, 7, nil},
+		{[]int{0, 0, 0}, 7, nil, 7, nil},
+		{[]int{0, 1, 1}, 20, nil, 8, nil},
+		{[]int{1, 1, 1, 1}, 8, nil, 8, nil},
+		{[]int{1, 1, 1, 1}, 20, nil, 9, nil},
+		{[]int{0, 1, 1, 2}, 7, []api.Entry{{Term: 2, Data: "9"}}, 7, []api.Record{entryRecord(8, 2, "9")}},
+		{[]int{0, 0, 0, 3, 4}, 20, two, 10, []api.Record{entryRecord(8, 3, "9"), entryRecord(9, 4, "10")}},
+		{[]int{2, 2, 2, 2}, 20, entries(8, 2, 2), 9, []api.Record{entryRecord(8, 2, "8"), entryRecord(9, 2, "9")}},
+	}
+}
+
 func TestAppendOfEntriesBelowTheBasesTerm(t *testing.T) {
-	for _, s := range []api.Saved{saved(4, 7, 2), saved(4, 7, 2, 2, 3)} {
-		for _, terms := range [][]int{{0, 1, 1}, {1, 1, 1, 1}, {0, 1, 1, 2}, {0, 0, 0, 3, 4}, {2, 2, 2, 2}} {
-			n := begun(t, 1, 3, s)
-			out := n.Receive(appends(2, 1, 4, 5, 0, 20, entries(6, terms...)...))
-			if terms[2] >= 2 {
-				sends(t, "of the base's term", out, appended(1, 2, 4, true, 9))
-				continue
+	for _, c := range refusedCases() {
+		what := fmt.Sprintf("terms %v, commit %d", c.terms, c.commit)
+		for _, term := range []int{4, 6} { // its own, and a later one
+			n := begun(t, 1, 3, saved(4, 7, 2))
+			n.Tick(0)
+			out := n.Receive(appends(2, 1, term, 5, 0, c.commit, entries(6, c.terms...)...))
+			sends(t, what, out, appended(1, 2, term, true, 5+len(c.terms)))
+			is(t, what, n, api.Follower, 2, c.reached, 10, more(with(saved(4, 7, 2), term, -1), c.behind...))
+			want := c.records
+			if term > 4 {
+				want = append([]api.Record{hardRecord(term, -1)}, want...)
 			}
-			sends(t, "below the base's term", out)
-			is(t, "below the base's term", n, api.Follower, 2, 7, 10, s)
-			records(t, "below the base's term", n)
+			records(t, what, n, want...)
 		}
 	}
+}
+
+// What stands where a refused entry should is cut nevertheless, unless it is committed.
+func TestAppendOfARefusedEntryCuts(t *testing.T) {
+	s := saved(4, 7, 2, 2, 3)
+	n := begun(t, 1, 3, s)
+	sends(t, "cut", n.Receive(appends(2, 1, 4, 5, 0, 0, entries(6, 1, 1, 1, 1)...)), appended(1, 2, 4, true, 9))
+	is(t, "cut", n, api.Follower, 2, 7, 10, saved(4, 7, 2))
+	records(t, "cut", n, cutRecord(8))
+	n = begun(t, 1, 3, s)
+	n.Receive(appends(2, 1, 4, 8, 2, 8))
+	sends(t, "committed", n.Receive(appends(2, 1, 4, 5, 0, 0, entries(6, 1, 1, 1, 1)...)))
+	is(t, "committed", n, api.Follower, 2, 8, 10, s)
+	records(t, "committed", n)
+}
+
+// Refused entries may leave the commit above the log's end: nothing stands there that could be of another term, so the node goes on, whatever comes.
+func TestACommitAboveTheLogsEnd(t *testing.T) {
+	begin := func() *raft.Node {
+		n := begun(t, 1, 3, saved(4, 7, 2))
+		n.Receive(appends(2, 1, 4, 5, 0, 20, entries(6, 1, 1, 1, 1)...))
+		is(t, "above it", n, api.Follower, 2, 9, 10, saved(4, 7, 2))
+		return n
+	}
+	n := begin()
+	sends(t, "entries there", n.Receive(appends(2, 1, 4, 7, 2, 20, entries(8, 2, 3, 4)...)), appended(1, 2, 4, true, 10))
+	is(t, "entries there", n, api.Follower, 2, 10, 10, saved(4, 7, 2, 2, 3, 4))
+	n = begin()
+	sends(t, "a base at it", n.Receive(snap(2, 1, 4, 9, 3, 9, "snap")), appended(1, 2, 4, true, 9))
+	is(t, "a base at it", n, api.Follower, 2, 9, 10, saved(4, 7, 2))
+	sends(t, "a base behind it", n.Receive(snap(2, 1, 4, 10, 3, 9, "snap")), appended(1, 2, 4, true, 10))
+	is(t, "a base behind it", n, api.Follower, 2, 10, 10, api.Saved{Term: 4, Vote: -1, Base: 10, BaseTerm: 3, Data: "snap"})
+	n = begin()
+	need(t, "Compact above it", n.Compact(10, "x"), api.ErrNone)
+	need(t, "Compact", n.Compact(9, "x"), api.OK)
+	is(t, "Compact", n, api.Follower, 2, 9, 10, api.Saved{Term: 4, Vote: -1, Base: 9, Data: "x"})
+	records(t, "Compact", n, baseRecord(9, 0, "x"))
+	n = begin()
+	for range 10 {
+		n.Tick(0)
+	}
+	n.Receive(voted(0, 1, 5, true))
+	is(t, "leading", n, api.Leader, 1, 9, 10, more(with(saved(4, 7, 2), 5, 1), api.Entry{Term: 5}))
+	sends(t, "leading", n.Receive(appended(0, 1, 5, true, 8)))
+	is(t, "leading", n, api.Leader, 1, 9, 10, more(with(saved(4, 7, 2), 5, 1), api.Entry{Term: 5}))
 }
 
 // What is handed in is neither changed nor kept.

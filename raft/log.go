@@ -6,7 +6,7 @@ import (
 	"strings"
 )
 
-// termAt is the term at an index from the base to the last one.
+// termAt is the term at an index from the base to the last one (behind that nothing is: 0).
 func (n *Node) termAt(index int) int {
 	term, _ := n.log.Term(index)
 	return term
@@ -18,15 +18,14 @@ func (n *Node) has(index, term int) bool {
 	return e == api.OK && t == term
 }
 
-// add puts an entry behind all others, unless the log refuses it.
-func (n *Node) add(x api.Entry) (int, api.Errno) {
+// add puts an entry behind all others. If the log refuses it (it is full, or the entry's term is below the last one's), the log stays as it is, and whoever wanted it there goes on: there is no other answer for that.
+func (n *Node) add(x api.Entry) {
 	index, e := n.log.Append(x)
 	if e != api.OK {
-		return 0, e
+		return
 	}
 	x, _ = n.log.Entry(index) // its data is a copy: what was handed in is not kept
 	n.records = append(n.records, api.Record{Group: n.group, Kind: api.RecEntry, Index: index, Term: x.Term, Data: x.Data})
-	return index, api.OK
 }
 
 // cut drops all entries from an index on, if there are some.

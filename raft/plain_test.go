@@ -18,6 +18,7 @@ type plain struct {
 	votes                                                             map[int]bool
 	next, match                                                       map[int]int
 	records                                                           []api.Record
+	refused                                                           int // how many entries layer 6 had no room for
 }
 
 func newPlain(id, nodes int, s api.Saved, draw int) *plain {
@@ -42,23 +43,15 @@ func (p *plain) tell() string {
 	return fmt.Sprintf("role %d lead %d commit %d left %d, %s", p.role, p.lead, p.commit, p.left, tellSaved(p.saved()))
 }
 
-// refused is why the log takes no such entry.
-func (p *plain) refused(x api.Entry) api.Errno {
-	if x.Term < p.at[p.last].Term {
-		return api.ErrOrder
-	}
-	if p.last == api.MaxIndex {
-		return api.ErrFull
-	}
-	return api.OK
-}
-
+// add appends an entry, unless layer 6 has no room for it: then all but the log is as if it had.
 func (p *plain) add(x api.Entry) {
-	if p.refused(x) == api.OK {
-		p.last++
-		p.at[p.last] = x
-		p.records = append(p.records, entryRecord(p.last, x.Term, x.Data))
+	if x.Term < p.at[p.last].Term || p.last == api.MaxIndex {
+		p.refused++
+		return
 	}
+	p.last++
+	p.at[p.last] = x
+	p.records = append(p.records, entryRecord(p.last, x.Term, x.Data))
 }
 
 func (p *plain) end(last int) {
@@ -173,16 +166,13 @@ func (p *plain) tick(draw int) []api.Message {
 }
 
 func (p *plain) propose(data string) (int, int, []api.Message, api.Errno) {
-	x := api.Entry{Term: p.term, Data: data}
 	switch {
 	case p.role != api.Leader:
 		return 0, 0, nil, api.ErrLead
 	case len(data) > api.MaxRecord:
 		return 0, 0, nil, api.ErrArg
-	case p.refused(x) != api.OK:
-		return 0, 0, nil, p.refused(x)
 	}
-	p.add(x)
+	p.add(api.Entry{Term: p.term, Data: data})
 	p.commits()
 	return p.last, p.term, p.tellAll(), api.OK
 }
@@ -294,28 +284,22 @@ func (p *plain) told(m api.Message) []api.Message {
 	}
 	for i, y := range m.Entries {
 		at := m.Index + 1 + i
-		if at > p.base && at <= p.commit && p.at[at].Term != y.Term {
+		if x, there := p.at[at]; there && at > p.base && at <= p.commit && x.Term != y.Term {
 			return nil
 		}
 	}
-	try := *p
-	try.at, try.records = maps.Clone(p.at), append([]api.Record{}, p.records...)
 	for i, y := range m.Entries {
 		at := m.Index + 1 + i
-		x, there := try.at[at]
-		if at <= try.base || there && x.Term == y.Term {
+		x, there := p.at[at]
+		if at <= p.base || there && x.Term == y.Term {
 			continue
 		}
 		if there {
-			try.end(at - 1)
-			try.records = append(try.records, cutRecord(at))
+			p.end(at - 1)
+			p.records = append(p.records, cutRecord(at))
 		}
-		if try.refused(y) != api.OK {
-			return nil
-		}
-		try.add(y)
+		p.add(y)
 	}
-	*p = try
 	p.commit = max(p.commit, min(m.Commit, m.Index+len(m.Entries)))
 	return []api.Message{appended(p.id, m.From, p.term, true, m.Index+len(m.Entries))}
 }
@@ -460,7 +444,7 @@ func (b *both) same(what string, got, want []api.Message) {
 
 // Whatever is done to a node, it does what the chapter's words say, and its records make what it saves.
 func TestANodeIsAPlainOneWhateverIsDone(t *testing.T) {
-	var roles, commits, bases int
+	var roles, commits, bases, refused, above int
 	for seed := range uint32(3000) {
 		draw := draws(seed * 2654435761)
 		nodes := 1 + draw(7)
@@ -478,15 +462,19 @@ func TestANodeIsAPlainOneWhateverIsDone(t *testing.T) {
 				t.Fatalf("seed %d: %s of\n%s:\n%s, not\n%s", seed, what, before, got, want)
 			}
 			roles |= 1 << b.p.role
+			if b.p.commit > b.p.last {
+				above++
+			}
 			if draw(3) == 0 {
 				b.told(what)
 			}
 		}
 		commits += b.p.commit - s.Base
 		bases += b.p.base - s.Base
+		refused += b.p.refused
 	}
-	if roles != 1<<api.Follower|1<<api.Candidate|1<<api.Leader || commits == 0 || bases == 0 {
-		t.Errorf("roles %b, %d committed, %d compacted", roles, commits, bases)
+	if roles != 1<<api.Follower|1<<api.Candidate|1<<api.Leader || commits == 0 || bases == 0 || refused == 0 || above == 0 {
+		t.Errorf("roles %b, %d committed, %d compacted, %d refused, %d times a commit above Last", roles, commits, bases, refused, above)
 	}
 }
 

@@ -72,7 +72,7 @@ func TestProposeRefused(t *testing.T) {
 	}
 }
 
-// A full log takes nothing more, and its node still leads.
+// A full log takes nothing more: its node still leads, and answers what is proposed as if it were the last one.
 func TestALogUpToTheHighestIndex(t *testing.T) {
 	const most = 1 << 40
 	for _, base := range []int{most, most - 1, most - 2} {
@@ -92,7 +92,8 @@ func TestALogUpToTheHighestIndex(t *testing.T) {
 			s = more(s, api.Entry{Term: 5, Data: "more"})
 		}
 		n.Records()
-		proposes(t, "full", n, "a", 0, 0, api.ErrFull)
+		proposes(t, "full", n, "a", most, 5, api.OK, appends(0, 1, 5, base, 2, base, s.Entries...), appends(0, 2, 5, base, 2, base, s.Entries...))
+		proposes(t, "full, too much data", n, long, 0, 0, api.ErrArg)
 		is(t, "full", n, api.Leader, 0, base, 10, s)
 		records(t, "full", n)
 		n.Receive(appended(1, 0, 5, true, most))
@@ -105,6 +106,18 @@ func TestALogUpToTheHighestIndex(t *testing.T) {
 			}
 		}
 	}
+}
+
+func TestProposeOfOneNodeWithAFullLog(t *testing.T) {
+	const most = 1 << 40
+	s := saved(4, most, 2)
+	n := leader(t, 0, 1, s)
+	n.Records()
+	for range 3 {
+		proposes(t, "full", n, "a", most, 5, api.OK)
+	}
+	is(t, "full", n, api.Leader, 0, most, 10, with(s, 5, 0))
+	records(t, "full", n)
 }
 
 func TestCompactAtEachBound(t *testing.T) {

@@ -73,12 +73,12 @@ func (n *Node) takeAppend(m api.Message) []api.Message {
 	if m.Index > last || m.Index >= n.log.Base() && !n.has(m.Index, m.At) {
 		return n.appended(m.From, false, max(0, min(last, m.Index-1)))
 	}
-	from := n.firstNew(m)
-	if !n.fits(m, from) {
+	first := n.firstNew(m)
+	if n.turnsCommitted(m, first) {
 		return nil
 	}
-	n.replace(m.Index+1+from, m.Entries[from:])
-	end := m.Index + len(m.Entries)
+	n.replace(m.Index+1+first, m.Entries[first:])
+	end := m.Index + len(m.Entries) // wherever the log ends now: it may have refused some of them
 	n.commit = max(n.commit, min(m.Commit, end))
 	return n.appended(m.From, true, end)
 }
@@ -147,16 +147,12 @@ func (n *Node) firstNew(m api.Message) int {
 	return len(m.Entries)
 }
 
-// fits is whether the entries of a message from a place on may replace what stands there: nothing that is committed, and nothing by what the log would refuse. No leader that keeps to the rules sends others.
-func (n *Node) fits(m api.Message, from int) bool {
-	if from == len(m.Entries) {
-		return true
-	}
-	index := m.Index + 1 + from
-	return index > n.commit && m.Entries[from].Term >= n.termAt(index-1) && m.Index+len(m.Entries) <= api.MaxIndex
+// turnsCommitted is whether the first new one of a message's entries would stand where something else is committed; no leader that keeps to the rules sends such ones. Behind the log's end nothing is, wherever the commit is.
+func (n *Node) turnsCommitted(m api.Message, first int) bool {
+	return first < len(m.Entries) && m.Index+1+first <= min(n.commit, n.log.Last())
 }
 
-// replace puts entries, which fit, at an index and behind it.
+// replace puts entries at an index and behind it.
 func (n *Node) replace(index int, entries []api.Entry) {
 	if len(entries) == 0 {
 		return

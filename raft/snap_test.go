@@ -109,7 +109,7 @@ func TestGoingOnBehindASnap(t *testing.T) {
 	sends(t, "voting", n.Receive(vote(2, 1, 5, 21, 4)), voted(1, 2, 5, true))
 }
 
-// No leader has a base of a later term than its own, but a message that tells of one may be: then the log takes no entry of the node's terms below it, which ends nothing and makes nothing wrong.
+// No leader has a base of a later term than its own, but a message that tells of one may be: then the log takes no entry of the node's terms below it, and the node leads and answers as if it had.
 func TestABaseOfALaterTerm(t *testing.T) {
 	n := begun(t, 0, 3, api.Saved{Vote: -1})
 	sends(t, "Receive", n.Receive(snap(1, 0, 3, 5, 9, 5, "later")), appended(0, 1, 3, true, 5))
@@ -119,9 +119,8 @@ func TestABaseOfALaterTerm(t *testing.T) {
 	n.Records()
 	s := api.Saved{Term: 4, Vote: 0, Base: 5, BaseTerm: 9, Data: "later"}
 	sends(t, "leading", n.Receive(voted(1, 0, 4, true)), appends(0, 1, 4, 5, 9, 5), appends(0, 2, 4, 5, 9, 5))
-	if index, term, out, e := n.Propose("x"); index != 0 || term != 0 || len(out) != 0 || e != api.ErrOrder {
-		t.Errorf("Propose: %d, %d, %v, %d", index, term, out, e)
-	}
+	proposes(t, "leading", n, "x", 5, 4, api.OK, appends(0, 1, 4, 5, 9, 5), appends(0, 2, 4, 5, 9, 5))
+	proposes(t, "leading, too much data", n, long, 0, 0, api.ErrArg)
 	n.Receive(appended(1, 0, 4, true, 5))
 	is(t, "leading", n, api.Leader, 0, 5, 10, s)
 	records(t, "leading", n)
